@@ -112,8 +112,7 @@ func (r *row[T]) fill(free int) {
 			r.hang(free, side, part)
 		}
 	}
-	clear(r.spots[last:])
-	r.spots = r.spots[:last]
+	r.spots = slices.Delete(r.spots, last, last+1)
 }
 
 // show shows a thing, or hides it.
