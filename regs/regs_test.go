@@ -515,6 +515,40 @@ func TestMemory(t *testing.T) {
 	}
 }
 
+// P5: what is put at one place of several Forks, behind what they have in common, is each one's own
+func TestForksPutAtOnePlace(t *testing.T) {
+	for many := range 9 {
+		r, p := New(), key("a")
+		var want []api.Entry
+		var last *Back
+		for n := range many {
+			last = r.Put(p, id(n), whole(int64(n)), nil)
+			want = append(want, entry(n, whole(int64(n))))
+		}
+		forks := []*Regs{r, r.Fork(), r.Fork(), r.Fork().Fork()}
+		for i, f := range forks {
+			f.Put(p, id(100+i), whole(9), nil)
+		}
+		for i, f := range forks {
+			lies(t, f, p, append(slices.Clip(want), entry(100+i, whole(9)))...)
+			undo(t, f, f.last)
+		}
+		for i, f := range forks {
+			if i%2 == 1 && many > 0 {
+				undo(t, f, last)
+				f.Put(p, id(200+i), whole(8), nil)
+			}
+		}
+		for i, f := range forks {
+			if i%2 == 1 && many > 0 {
+				lies(t, f, p, append(slices.Clip(want[:many-1]), entry(200+i, whole(8)))...)
+			} else {
+				lies(t, f, p, want...)
+			}
+		}
+	}
+}
+
 // P6: many that wrote at one time cost a step no more than what it changes
 func TestManyAtOnePlace(t *testing.T) {
 	const many = 100000

@@ -1,6 +1,10 @@
 package regs
 
-import "estuary/api"
+import (
+	"slices"
+
+	"estuary/api"
+)
 
 // stood is an entry as it was, and how many lay ahead of it at its place. Steps keep these and not all that lay there, which could be much where many wrote at one time.
 type stood struct {
@@ -22,24 +26,38 @@ func had(l []api.Entry, seen func(api.Id) bool) []stood {
 	return seenOnes
 }
 
-// without is a list less those that were taken from it, in its own memory.
+// cut is the first n of a list, without room behind them: what is put there goes into new memory, and not over what a Fork may have.
+func cut(l []api.Entry, n int) []api.Entry {
+	return l[:n:n]
+}
+
+// without is a list less those that are taken from it.
 func without(l []api.Entry, taken []stood) []api.Entry {
 	if len(taken) == 0 {
 		return l
 	}
-	rest := l[:taken[0].at]
-	for i, e := range taken {
-		end := len(l)
-		if i+1 < len(taken) {
-			end = taken[i+1].at
-		}
-		rest = append(rest, l[e.at+1:end]...)
+	rest := make([]api.Entry, 0, len(l)-len(taken))
+	from := 0
+	for _, e := range taken {
+		rest = append(rest, l[from:e.at]...)
+		from = e.at + 1
 	}
-	clear(l[len(rest):]) // or their texts would be kept behind the list's end
-	return rest
+	return append(rest, l[from:]...)
 }
 
-// with is a list with those that were taken from it back where they stood; in new memory, if there are any.
+// changed is a list in which some, which stand there as they were or have been changed since, have another value, made out of what they were.
+func changed(l []api.Entry, some []stood, another func(was api.Value) api.Value) []api.Entry {
+	if len(some) == 0 {
+		return l
+	}
+	l = slices.Clone(l)
+	for _, e := range some {
+		l[e.at].Value = another(e.Value)
+	}
+	return l
+}
+
+// with is a list with those that were taken from it back where they stood.
 func with(rest []api.Entry, taken []stood) []api.Entry {
 	if len(taken) == 0 {
 		return rest
