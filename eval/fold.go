@@ -6,7 +6,7 @@ import (
 	"estuary/api"
 	"estuary/dag"
 	"estuary/doc"
-	"estuary/update"
+	"estuary/edit"
 )
 
 const room = 16 // how many updates are read ahead of the one that is done
@@ -44,12 +44,20 @@ func read(g *dag.Graph, row []api.Hash) <-chan change {
 	go func() {
 		for _, h := range row {
 			u, _ := g.Update(h)
-			ops, _ := update.Ops(u)
-			out <- change{h, ops}
+			out <- change{h, ops(u, h)}
 		}
 		close(out)
 	}()
 	return out
+}
+
+// ops are an update's. Its id is at hand here, so that its bytes need not be made again for it.
+func ops(u api.Update, id api.Hash) []api.Op {
+	l := make([]api.Op, len(u.Edits))
+	for i, e := range u.Edits {
+		l[i] = edit.Op(e, id, i+1, u.Author)
+	}
+	return l
 }
 
 // do does the ops of an update, each with what it had seen; how each is undone.
