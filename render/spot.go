@@ -134,8 +134,13 @@ func (s spot) takes(step api.Step, last bool) bool {
 	return step.Kind == s.leads() || last && step.Kind == api.ByIndex && s.top.Value.Kind == api.String
 }
 
-// next is the spot to which a step leads from another one.
+// next is the spot to which a step leads from another one. A key is asked for by itself, however many there are.
 func (s spot) next(d *doc.Doc, step api.Step) (spot, bool) {
+	if step.Kind == api.ByKey {
+		p := api.Place{Obj: s.top.Id, Key: step.Key}
+		_, lies := d.Top(p)
+		return s.inner(d, 0, p), lies
+	}
 	for n, p := range s.places(d, s) {
 		if s.stepTo(n, p) == step {
 			return s.inner(d, n, p), true
