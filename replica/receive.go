@@ -5,6 +5,7 @@ import (
 	"slices"
 
 	"estuary/api"
+	"estuary/commit"
 	"estuary/digest"
 	"estuary/update"
 )
@@ -26,8 +27,8 @@ func (r *Replica) Commit(author int, time int64, note string, l []api.Edit) api.
 	if r == nil {
 		return api.Receipt{Why: api.ErrNil}
 	}
-	u := api.Update{Parents: r.parents(author), Author: author, Time: time, Note: note, Edits: l}
-	u.Seq = r.graph.Next(author, u.Parents)
+	u := commit.Over(r.graph, author)
+	u.Time, u.Note, u.Edits = time, note, l
 	id, why := update.Id(u)
 	if why != api.OK {
 		return api.Receipt{Why: why}
@@ -111,41 +112,4 @@ func (in *intake) lookOn() {
 			return
 		}
 	}
-}
-
-// parents are those of an author's next update: the heads, if they are not too many.
-func (r *Replica) parents(author int) []api.Hash {
-	heads := r.graph.Heads()
-	if len(heads) <= api.MaxParents {
-		return heads
-	}
-	own := r.newest(author)
-	slices.SortFunc(heads, func(a, b api.Hash) int {
-		return cmp.Or(cmp.Compare(r.knows(b, own), r.knows(a, own)), r.compare(b, a))
-	})
-	heads = heads[:api.MaxParents]
-	slices.SortFunc(heads, digest.Compare)
-	return heads
-}
-
-// newest is an author's accepted update with the greatest Seq, of several the first in the order; none, if there is none.
-func (r *Replica) newest(author int) []api.Hash {
-	seq := 0
-	var newest []api.Hash
-	for _, h := range r.graph.Order() {
-		if u, _ := r.graph.Update(h); u.Author == author && u.Seq > seq {
-			seq, newest = u.Seq, []api.Hash{h}
-		}
-	}
-	return newest
-}
-
-// knows is 1, if one of these is in the past of an update, else 0.
-func (r *Replica) knows(h api.Hash, l []api.Hash) int {
-	for _, x := range l {
-		if x == h || r.graph.Before(x, h) {
-			return 1
-		}
-	}
-	return 0
 }
