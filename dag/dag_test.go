@@ -651,23 +651,6 @@ func TestMemory(t *testing.T) {
 	}
 }
 
-// The rows' own edges: what lies beyond a row is not in it, and copies are apart.
-func TestRows(t *testing.T) {
-	for _, room := range []int{0, 1, 63, 64, 65, 128} {
-		r := newRow(room)
-		for place := range 200 {
-			if r.has(place) || fullRow(room).has(place) != (place < (room+63)/64*64) {
-				t.Errorf("room %d: %d", room, place)
-			}
-		}
-		c := r.copied(room + 1)
-		c.put(room)
-		if !c.has(room) || r.has(room) || c.has(room+1) {
-			t.Errorf("a copy of the room %d", room)
-		}
-	}
-}
-
 // A walk that is left early ends there.
 func TestWalksAreLeft(t *testing.T) {
 	g, _, _, _, _ := four(t)

@@ -21,7 +21,7 @@ const (
 
 // layers are in their order, with what all share at its head: each may call those ahead of it.
 func layers() []string {
-	return strings.Fields("api words digest wire value edit update dag commit orphans regs seq tree marks doc way eval render replica history patch draft undo bloom parley pack journal keys policy gossip shell")
+	return strings.Fields("api words places digest wire value edit update dag commit orphans regs seq tree marks doc way eval render replica history patch draft undo bloom parley pack journal keys policy gossip shell")
 }
 
 func library() []string {
